@@ -4,6 +4,7 @@ import (
 	"iter"
 
 	"deltaworks/api"
+	"deltaworks/refuse"
 )
 
 // together are the steps of two edits of one list, as they meet at its values. Where one edit puts a value the list does not move on: there the other one is said to keep.
@@ -44,7 +45,7 @@ func (g *gap) oneDrops(x, _ step) { g.ofTwo = append(g.ofTwo, x) }
 func (g *gap) twoDrops(_, y step) { g.ofOne = append(g.ofOne, y) }
 
 // drop says of what both drop that neither makes it; it is one value.
-func (g *gap) drop(x, y step) { need(x == y, api.ErrState) }
+func (g *gap) drop(x, y step) { refuse.Unless(x == y, api.ErrState) }
 
 // meetings are what is done with two steps that meet, by both kinds. Two of which one puts, and the other one does not keep, never meet.
 func meetings() [3][3]func(*gap, step, step) {
@@ -57,7 +58,7 @@ func meetings() [3][3]func(*gap, step, step) {
 
 // gaps returns what comes of two edits, which are refused unless they are of one list. Two steps that keep meet only where both keep: what is put never meets.
 func gaps(e, f []step) []gap {
-	need(without(api.EditPut, e) == without(api.EditPut, f), api.ErrState)
+	refuse.Unless(without(api.EditPut, e) == without(api.EditPut, f), api.ErrState)
 	meet := meetings()
 	made := make([]gap, 1)
 	for x, y := range together(e, f) {
@@ -85,7 +86,7 @@ func crossed(e, f []step) (second, first []step) {
 		second = append(second, joined(passed(g.ofOne), puts(g.ofTwo), g.both)...)
 		first = append(first, joined(puts(g.ofOne), passed(g.ofTwo), g.both)...)
 	}
-	need(without(api.EditDrop, second) <= api.EditMost, api.ErrLong)
+	refuse.Unless(without(api.EditDrop, second) <= api.EditMost, api.ErrLong)
 	return second, first
 }
 

@@ -4,6 +4,7 @@ import (
 	"iter"
 
 	"deltaworks/api"
+	"deltaworks/refuse"
 	"deltaworks/value"
 )
 
@@ -44,8 +45,8 @@ func steps(e []api.EditPiece) iter.Seq[step] {
 // checked returns the steps of an edit, which is refused unless it is valid, and of short lists.
 func checked(e []api.EditPiece) []step {
 	for i, p := range e {
-		need(rightPiece(p), api.ErrArg)
-		need(i == 0 || rightBehind(e[i-1].Kind, p.Kind), api.ErrArg)
+		refuse.Unless(rightPiece(p), api.ErrArg)
+		refuse.Unless(i == 0 || rightBehind(e[i-1].Kind, p.Kind), api.ErrArg)
 	}
 	var made []step
 walk:
@@ -55,8 +56,8 @@ walk:
 			break walk
 		}
 	}
-	need(without(api.EditPut, made) <= api.EditMost, api.ErrLong)
-	need(without(api.EditDrop, made) <= api.EditMost, api.ErrLong)
+	refuse.Unless(without(api.EditPut, made) <= api.EditMost, api.ErrLong)
+	refuse.Unless(without(api.EditDrop, made) <= api.EditMost, api.ErrLong)
 	return made
 }
 
@@ -107,7 +108,7 @@ func turned(l []step) []step {
 
 // listed returns the steps that make a list of nothing; the list is refused if it is too long, or has a value that is not valid.
 func listed(l []api.Value) []step {
-	need(len(l) <= api.EditMost, api.ErrLong)
+	refuse.Unless(len(l) <= api.EditMost, api.ErrLong)
 	made := make([]step, len(l))
 	for i, v := range l {
 		made[i] = step{api.EditPut, keyOf(v)}
@@ -117,9 +118,7 @@ func listed(l []api.Value) []step {
 
 // keyOf returns the key of a value, which is refused unless it is valid.
 func keyOf(v api.Value) string {
-	key, e := value.Key(v)
-	need(e == api.OK, e)
-	return key
+	return refuse.Got(value.Key(v))
 }
 
 // value returns the value that is dropped, or put.

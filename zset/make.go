@@ -5,6 +5,7 @@ import (
 	"strings"
 
 	"deltaworks/api"
+	"deltaworks/refuse"
 )
 
 // making is a collection in the making: rows come in any order, any number of times.
@@ -31,7 +32,7 @@ func (r rows) settled() rows {
 	made := make(rows, len(r))
 	copy(made, r)
 	made = slices.DeleteFunc(made, func(x counted) bool { return x.n == 0 })
-	need(len(made) <= api.RowsMost, api.ErrFull)
+	refuse.Unless(len(made) <= api.RowsMost, api.ErrFull)
 	sortBy(made, byKey())
 	return made[:len(made):len(made)]
 }

@@ -2,6 +2,7 @@ package zset
 
 import (
 	"deltaworks/api"
+	"deltaworks/refuse"
 	"deltaworks/value"
 )
 
@@ -16,18 +17,16 @@ type rows []counted
 
 // keyOf returns the key of a row, which is refused unless it is valid.
 func keyOf(row api.Value) string {
-	key, e := value.Key(row)
-	need(e == api.OK, e)
-	return key
+	return refuse.Got(value.Key(row))
 }
 
 // checked returns the rows of a collection, which is refused unless it is valid.
 func checked(z api.Zset) rows {
-	need(len(z) <= api.RowsMost, api.ErrLong)
+	refuse.Unless(len(z) <= api.RowsMost, api.ErrLong)
 	r := make(rows, len(z))
 	for i, item := range z {
 		r[i] = counted{keyOf(item.Row), item.N}
-		need(item.N != 0 && (i == 0 || r[i-1].key < r[i].key), api.ErrArg)
+		refuse.Unless(item.N != 0 && (i == 0 || r[i-1].key < r[i].key), api.ErrArg)
 	}
 	return r
 }

@@ -4,6 +4,7 @@ import (
 	"iter"
 
 	"deltaworks/api"
+	"deltaworks/refuse"
 	"deltaworks/value"
 )
 
@@ -48,17 +49,17 @@ walk:
 		}
 		made = append(made, counted{x.key, n})
 	}
-	need(!full, api.ErrFull)
+	refuse.Unless(!full, api.ErrFull)
 	return made
 }
 
 // pairs gives take each row of one collection with each one of the other. They come in order, as tuples are ordered by their first parts first.
 func pairs(a, b api.Zset, take func(counted)) {
-	need(len(a)*len(b) <= api.RowsMost, api.ErrFull)
+	refuse.Unless(len(a)*len(b) <= api.RowsMost, api.ErrFull)
 	for _, x := range a {
 		for _, y := range b {
 			key, e := value.Key(api.Value{Kind: api.ValueTuple, L: []api.Value{x.Row, y.Row}})
-			need(e == api.OK, api.ErrFull)
+			refuse.Unless(e == api.OK, api.ErrFull)
 			take(counted{key, x.N * y.N})
 		}
 	}
