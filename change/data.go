@@ -4,6 +4,7 @@ import (
 	"slices"
 
 	"deltaworks/api"
+	"deltaworks/lists"
 	"deltaworks/value"
 )
 
@@ -26,7 +27,7 @@ func size(d api.Data) int {
 
 // idle reports whether a change of a type changes nothing.
 func idle(c api.Change) bool {
-	return c.N == 0 && len(c.Edit)+len(c.Rows)+len(c.Keys) == 0 && all(c.L, idle)
+	return c.N == 0 && len(c.Edit)+len(c.Rows)+len(c.Keys) == 0 && lists.All(c.L, idle)
 }
 
 func blankValue(v api.Value) bool {
@@ -96,25 +97,6 @@ func renewChange(c *api.Change) {
 	c.Rows = renewed(c.Rows, renewItem)
 	c.L = renewed(c.L, renewChange)
 	c.Keys = renewed(c.Keys, renewKey)
-}
-
-// changed returns a list of what of makes of each element.
-func changed[T, U any](l []T, of func(T) U) []U {
-	made := make([]U, len(l))
-	for i, x := range l {
-		made[i] = of(x)
-	}
-	return made
-}
-
-// all reports whether all elements of a list are right.
-func all[T any](l []T, right func(T) bool) bool {
-	for _, x := range l {
-		if !right(x) {
-			return false
-		}
-	}
-	return true
 }
 
 // taking is a list in the making.

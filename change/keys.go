@@ -5,6 +5,7 @@ import (
 	"slices"
 
 	"deltaworks/api"
+	"deltaworks/lists"
 	"deltaworks/refuse"
 	"deltaworks/value"
 )
@@ -105,7 +106,7 @@ func keyByKey[T any](a, b []T, key func(T) api.Value, both func(x, y T) ([]T, bo
 	var made taking[T]
 	can := true
 walk:
-	for i, k := range together(changed(a, key), changed(b, key)) {
+	for i, k := range together(lists.Changed(a, key), lists.Changed(b, key)) {
 		switch {
 		case k < 0:
 			made.take(a[i])

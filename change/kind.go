@@ -2,6 +2,7 @@ package change
 
 import (
 	"deltaworks/api"
+	"deltaworks/lists"
 	"deltaworks/refuse"
 	"deltaworks/value"
 )
@@ -29,7 +30,7 @@ func makers() [8]maker {
 		api.DataList:  {func(l looked) kind { return list{l.has} }},
 		api.DataBag:   {func(l looked) kind { return bag{l} }},
 		api.DataSet:   {func(l looked) kind { return set{bag{l}} }},
-		api.DataTuple: {func(l looked) kind { return tuple{changed(l.L, look)} }},
+		api.DataTuple: {func(l looked) kind { return tuple{lists.Changed(l.L, look)} }},
 		api.DataMap:   {func(l looked) kind { return mapping{l, look(l.L[0])} }},
 	}
 }

@@ -3,6 +3,7 @@ package change
 import (
 	"deltaworks/api"
 	"deltaworks/edit"
+	"deltaworks/lists"
 	"deltaworks/refuse"
 )
 
@@ -12,7 +13,7 @@ type list struct{ has func(api.Value) bool }
 func (k list) is(d api.Data) bool {
 	l := d.List
 	d.List = nil
-	return blankData(d) && len(l) <= api.EditMost && all(l, k.has)
+	return blankData(d) && len(l) <= api.EditMost && lists.All(l, k.has)
 }
 
 func (k list) fits(c api.Change) bool {
@@ -24,7 +25,7 @@ func (k list) fits(c api.Change) bool {
 // edits reports whether an edit is one of short lists of such values, and not one that only keeps.
 func (k list) edits(e []api.EditPiece) bool {
 	cost, err := edit.Cost(e)
-	return err == api.OK && cost > 0 && all(e, func(p api.EditPiece) bool { return all(p.L, k.has) })
+	return err == api.OK && cost > 0 && lists.All(e, func(p api.EditPiece) bool { return lists.All(p.L, k.has) })
 }
 
 func (k list) empty() api.Data { return api.Data{} }

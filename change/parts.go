@@ -4,6 +4,7 @@ import (
 	"slices"
 
 	"deltaworks/api"
+	"deltaworks/lists"
 	"deltaworks/refuse"
 )
 
@@ -22,7 +23,7 @@ func (k tuple) fits(c api.Change) bool {
 	return blankChange(c) && slices.EqualFunc(k.parts, l, looked.fits)
 }
 
-func (k tuple) empty() api.Data { return api.Data{L: changed(k.parts, looked.empty)} }
+func (k tuple) empty() api.Data { return api.Data{L: lists.Changed(k.parts, looked.empty)} }
 
 func (k tuple) apply(d api.Data, c api.Change) api.Data {
 	d.L = partByPart(k.parts, d.L, c.L, looked.apply)
@@ -61,18 +62,18 @@ type mapping struct{ keys, of looked }
 func (k mapping) is(d api.Data) bool {
 	keys, l := d.Keys, d.L
 	d.Keys, d.L = nil, nil
-	return blankData(d) && len(keys) == len(l) && k.rising(keys) && all(l, k.of.is)
+	return blankData(d) && len(keys) == len(l) && k.rising(keys) && lists.All(l, k.of.is)
 }
 
 func (k mapping) fits(c api.Change) bool {
 	keys := c.Keys
 	c.Keys = nil
-	return blankChange(c) && k.rising(changed(keys, keyOf)) && all(keys, k.fitsKey)
+	return blankChange(c) && k.rising(lists.Changed(keys, keyOf)) && lists.All(keys, k.fitsKey)
 }
 
 // rising reports whether few keys are rising, and of the type: as a set has its rows.
 func (k mapping) rising(keys []api.Value) bool {
-	return k.keys.rows(changed(keys, func(key api.Value) api.Item { return api.Item{Row: key, N: 1} }))
+	return k.keys.rows(lists.Changed(keys, func(key api.Value) api.Item { return api.Item{Row: key, N: 1} }))
 }
 
 func (k mapping) fitsKey(x api.KeyChange) bool {
@@ -90,8 +91,8 @@ func (k mapping) empty() api.Data { return api.Data{} }
 // apply looks at a map as at a change of the empty one, which puts all its keys: what is put then is the map that comes.
 func (k mapping) apply(d api.Data, c api.Change) api.Data {
 	l := k.behind(whole(d, api.KeyPut), c.Keys)
-	refuse.Unless(all(l, isPut), api.ErrState)
-	d.Keys, d.L = changed(l, keyOf), changed(l, dataOf)
+	refuse.Unless(lists.All(l, isPut), api.ErrState)
+	d.Keys, d.L = lists.Changed(l, keyOf), lists.Changed(l, dataOf)
 	return d
 }
 
@@ -101,7 +102,7 @@ func (k mapping) diff(a, b api.Data) api.Change {
 }
 
 func (k mapping) invert(c api.Change) api.Change {
-	return api.Change{Keys: changed(c.Keys, k.invertKey)}
+	return api.Change{Keys: lists.Changed(c.Keys, k.invertKey)}
 }
 
 func (k mapping) compose(a, b api.Change) api.Change {

@@ -2,6 +2,7 @@ package change
 
 import (
 	"deltaworks/api"
+	"deltaworks/lists"
 	"deltaworks/refuse"
 	"deltaworks/zset"
 )
@@ -52,20 +53,20 @@ func isFlip(x api.Item) bool { return x.N == 1 || x.N == -1 }
 
 func rowOf(x api.Item) api.Value { return x.Row }
 
-func (k set) is(d api.Data) bool { return k.bag.is(d) && all(d.Rows, isThere) }
+func (k set) is(d api.Data) bool { return k.bag.is(d) && lists.All(d.Rows, isThere) }
 
-func (k set) fits(c api.Change) bool { return k.bag.fits(c) && all(c.Rows, isFlip) }
+func (k set) fits(c api.Change) bool { return k.bag.fits(c) && lists.All(c.Rows, isFlip) }
 
 // apply refuses what is put twice, which is there twice then, and what is dropped and not there, which is missing then.
 func (k set) apply(d api.Data, c api.Change) api.Data {
 	d = k.bag.apply(d, c)
-	refuse.Unless(all(d.Rows, isThere), api.ErrState)
+	refuse.Unless(lists.All(d.Rows, isThere), api.ErrState)
 	return d
 }
 
 func (k set) compose(a, b api.Change) api.Change {
 	c := k.bag.compose(a, b)
-	refuse.Unless(all(c.Rows, isFlip), api.ErrState)
+	refuse.Unless(lists.All(c.Rows, isFlip), api.ErrState)
 	return c
 }
 
