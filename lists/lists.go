@@ -13,6 +13,17 @@ func Changed[T, U any](l []T, of func(T) U) []U {
 	return made
 }
 
+// Joined returns a list of the elements of l, and more behind them; without elements it is nil.
+func Joined[T any](l []T, more ...T) []T {
+	if len(l)+len(more) == 0 {
+		return nil
+	}
+	made := make([]T, len(l)+len(more))
+	n := copy(made, l)
+	copy(made[n:], more)
+	return made
+}
+
 // All reports whether all elements of a list are right.
 func All[T any](l []T, right func(T) bool) bool {
 	for _, x := range l {

@@ -26,6 +26,30 @@ func TestChanged(t *testing.T) {
 	}
 }
 
+// TestJoined: what is joined is new, also where a list has room behind its end.
+func TestJoined(t *testing.T) {
+	room := []int{1, 2, 3, 4}
+	for _, x := range []struct{ l, more, want []int }{
+		{nil, nil, nil},
+		{room[:0], room[4:], nil},
+		{room[:2], nil, []int{1, 2}},
+		{nil, room[:2], []int{1, 2}},
+		{room[:2], []int{7, 8, 9}, []int{1, 2, 7, 8, 9}},
+		{room[:1], room[:1], []int{1, 1}},
+	} {
+		made := lists.Joined(x.l, x.more...)
+		if !slices.Equal(made, x.want) || (made == nil) != (x.want == nil) || cap(made) != len(made) {
+			t.Errorf("%v and %v: %v", x.l, x.more, made)
+		}
+		for i := range made {
+			made[i] = -1
+		}
+	}
+	if !slices.Equal(room, []int{1, 2, 3, 4}) {
+		t.Errorf("%v", room)
+	}
+}
+
 // TestAll: all elements are asked about, in order, as far as the first one that is not right.
 func TestAll(t *testing.T) {
 	var asked []int
