@@ -6,6 +6,7 @@ import (
 	"deltaworks/api"
 	"deltaworks/lists"
 	"deltaworks/refuse"
+	"deltaworks/types"
 )
 
 // checker is what expressions are checked and evaluated with: functions, of which the first ones are formed, and the first ones of these typed.
@@ -32,7 +33,7 @@ func (c *checker) each(do func(*checker, api.Fun)) {
 
 // form refuses the next function unless it is formed; from then on it may be called.
 func (c *checker) form(f api.Fun) {
-	refuse.Unless(len(f.Params) <= api.Wide && lists.All(f.Params, isType), api.ErrArg)
+	refuse.Unless(len(f.Params) <= api.Wide && lists.All(f.Params, types.IsValid), api.ErrArg)
 	refuse.Unless(isFormed(f.Body, around{len(f.Params), c.mayCall}), api.ErrArg)
 	whole := c.whole(f.Body)
 	refuse.Unless(whole <= api.ExpWhole, api.ErrArg)
@@ -47,7 +48,7 @@ func (c *checker) typed(f api.Fun) {
 
 // typeOf returns the type of an expression; it is refused, and the functions are, unless they are formed and typed.
 func (c *checker) typeOf(vars []api.Type, e api.Exp) api.Type {
-	refuse.Unless(len(vars) <= varsMost && lists.All(vars, isType), api.ErrArg)
+	refuse.Unless(len(vars) <= varsMost && lists.All(vars, types.IsValid), api.ErrArg)
 	refuse.Unless(isFormed(e, around{len(vars), c.mayCall}), api.ErrArg)
 	c.each((*checker).typed)
 	return scope[api.Type]{c, vars, kind.typ}.of(e)

@@ -4,6 +4,7 @@ import (
 	"deltaworks/api"
 	"deltaworks/lists"
 	"deltaworks/refuse"
+	"deltaworks/types"
 )
 
 // kind is what is known of the expressions of an operation. What it is asked about has as many parts as the operation says.
@@ -62,7 +63,7 @@ type number struct{ plain }
 
 func (number) right(e api.Exp, _ around) bool { return isValue(wordOf(e.N)) }
 
-func (number) typ(scope[api.Type], api.Exp) api.Type { return word }
+func (number) typ(scope[api.Type], api.Exp) api.Type { return types.Word() }
 
 func (number) value(_ scope[api.Value], e api.Exp) api.Value { return wordOf(e.N) }
 
@@ -70,14 +71,14 @@ type letters struct{ plain }
 
 func (letters) right(e api.Exp, _ around) bool { return isValue(textOf(e.S)) }
 
-func (letters) typ(scope[api.Type], api.Exp) api.Type { return text }
+func (letters) typ(scope[api.Type], api.Exp) api.Type { return types.Text() }
 
 func (letters) value(_ scope[api.Value], e api.Exp) api.Value { return textOf(e.S) }
 
 type tuple struct{ plain }
 
 func (tuple) typ(s scope[api.Type], e api.Exp) api.Type {
-	return needValid(api.Type{Kind: api.TypeTuple, L: s.parts(e)})
+	return types.NeedValid(types.Tuple(s.parts(e)...))
 }
 
 func (tuple) value(s scope[api.Value], e api.Exp) api.Value {
@@ -99,12 +100,12 @@ func (get) value(s scope[api.Value], e api.Exp) api.Value { return s.of(e.L[0]).
 type tag struct{ plain }
 
 func (tag) right(e api.Exp, _ around) bool {
-	return len(e.T) <= api.Wide && e.N >= 0 && e.N < len(e.T) && lists.All(e.T, isType)
+	return len(e.T) <= api.Wide && e.N >= 0 && e.N < len(e.T) && lists.All(e.T, types.IsValid)
 }
 
 func (tag) typ(s scope[api.Type], e api.Exp) api.Type {
-	need(s.parts(e), e.T[e.N])
-	return needValid(api.Type{Kind: api.TypeSum, L: e.T})
+	types.Need(s.parts(e), e.T[e.N])
+	return types.NeedValid(api.Type{Kind: api.TypeSum, L: e.T})
 }
 
 func (tag) value(s scope[api.Value], e api.Exp) api.Value {
@@ -125,11 +126,11 @@ type cases struct{ let }
 func (cases) typ(s scope[api.Type], e api.Exp) api.Type {
 	t := s.of(e.L[0])
 	refuse.Unless(t.Kind == api.TypeSum && len(t.L) == len(e.L)-1, api.ErrType)
-	types := make([]api.Type, len(t.L))
+	made := make([]api.Type, len(t.L))
 	for i, x := range t.L {
-		types[i] = s.with(x).of(e.L[i+1])
+		made[i] = s.with(x).of(e.L[i+1])
 	}
-	return needOne(types...)
+	return types.NeedOne(made...)
 }
 
 func (cases) value(s scope[api.Value], e api.Exp) api.Value {
@@ -140,9 +141,9 @@ func (cases) value(s scope[api.Value], e api.Exp) api.Value {
 type choice struct{ plain }
 
 func (choice) typ(s scope[api.Type], e api.Exp) api.Type {
-	types := s.parts(e)
-	need(types[:1], word)
-	return needOne(types[1:]...)
+	parts := s.parts(e)
+	types.Need(parts[:1], types.Word())
+	return types.NeedOne(parts[1:]...)
 }
 
 func (choice) value(s scope[api.Value], e api.Exp) api.Value {
@@ -157,9 +158,9 @@ type bin struct{ plain }
 func (bin) right(e api.Exp, _ around) bool { return isOp(e.N) }
 
 func (bin) typ(s scope[api.Type], e api.Exp) api.Type {
-	t := needOne(s.parts(e)...)
-	refuse.Unless(compares(e.N) || same(t, word), api.ErrType)
-	return word
+	t := types.NeedOne(s.parts(e)...)
+	refuse.Unless(compares(e.N) || types.Same(t, types.Word()), api.ErrType)
+	return types.Word()
 }
 
 func (bin) value(s scope[api.Value], e api.Exp) api.Value {
@@ -169,8 +170,8 @@ func (bin) value(s scope[api.Value], e api.Exp) api.Value {
 type size struct{ plain }
 
 func (size) typ(s scope[api.Type], e api.Exp) api.Type {
-	need(s.parts(e), text)
-	return word
+	types.Need(s.parts(e), types.Text())
+	return types.Word()
 }
 
 func (size) value(s scope[api.Value], e api.Exp) api.Value { return wordOf(len(s.of(e.L[0]).S)) }
@@ -178,8 +179,8 @@ func (size) value(s scope[api.Value], e api.Exp) api.Value { return wordOf(len(s
 type join struct{ plain }
 
 func (join) typ(s scope[api.Type], e api.Exp) api.Type {
-	need(s.parts(e), text, text)
-	return text
+	types.Need(s.parts(e), types.Text(), types.Text())
+	return types.Text()
 }
 
 func (join) value(s scope[api.Value], e api.Exp) api.Value {
@@ -190,8 +191,8 @@ func (join) value(s scope[api.Value], e api.Exp) api.Value {
 type cut struct{ plain }
 
 func (cut) typ(s scope[api.Type], e api.Exp) api.Type {
-	need(s.parts(e), text, word, word)
-	return text
+	types.Need(s.parts(e), types.Text(), types.Word(), types.Word())
+	return types.Text()
 }
 
 func (cut) value(s scope[api.Value], e api.Exp) api.Value {
@@ -208,7 +209,7 @@ type call struct{ plain }
 func (call) right(e api.Exp, a around) bool { return a.mayCall(e.N, len(e.L)) }
 
 func (call) typ(s scope[api.Type], e api.Exp) api.Type {
-	need(s.parts(e), s.funs[e.N].Params...)
+	types.Need(s.parts(e), s.funs[e.N].Params...)
 	return s.types[e.N]
 }
 

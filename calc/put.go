@@ -3,6 +3,7 @@ package calc
 import (
 	"deltaworks/api"
 	"deltaworks/lists"
+	"deltaworks/types"
 )
 
 // named is what a node names by its number: of ExpVar the variable N.
@@ -59,7 +60,7 @@ func bare(e api.Exp) api.Exp {
 	case api.ExpText:
 		made.S = e.S
 	case api.ExpTag:
-		made.T = lists.Changed(e.T, newType)
+		made.T = lists.Changed(e.T, types.New)
 		fallthrough
 	case api.ExpInt, api.ExpGet, api.ExpBin, api.ExpCall:
 		made.N = e.N
