@@ -137,6 +137,15 @@ func TestWideRules(t *testing.T) {
 	rulesAre(t, l, pair, rulesOf(apart), []int{1, 1})
 	rulesAre(t, l, pair, rulesOf(tested(apart, vari(1))), []int{1, 1})
 	rulesAre(t, l, pair, rulesOf(rule(vars(0, 1), atom(1, 0, 1), atom(0, 0, 2), atom(0, 3, 2), atom(0, 4, 5))), []int{1, 1})
+	// So does one that asks anew, for each row of its block, whether there is any of very many.
+	var steps api.Zset
+	var want [][]int
+	for n := range 5000 {
+		steps = append(steps, row(words(n, n+1), 1))
+		want = append(want, []int{n})
+	}
+	first, next := rule(terms(is(num(0)))), rule(vars(1), atom(2, 0), atom(1, 0, 1), atom(0, 2, 3))
+	rulesAre(t, ins(l[0], steps), single, rulesOf(first, next), append(want, []int{5000})...)
 }
 
 // TestManyWays: P1: a rule that can be met in very many ways ends, too, whether it is met or not.

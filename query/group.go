@@ -35,4 +35,7 @@ func (g *groups[T]) place(v api.Value) int {
 }
 
 // of returns what there is for a value: at first the zero value. It is found there until another value comes.
-func (g *groups[T]) of(v api.Value) *T { return &g.all[g.place(v)].has }
+func (g *groups[T]) of(v api.Value) *T {
+	i := g.place(v)
+	return &g.all[i].has
+}

@@ -140,10 +140,9 @@ func TestNotReadMakesNoDifference(t *testing.T) {
 	})
 }
 
-// TestOneMeaning: P6.7: expressions that are put for variables, and views that are numbered otherwise, mean the same.
+// TestOneMeaning: P6.7: what a view makes of what another one makes, a single one makes by both expressions.
 func TestOneMeaning(t *testing.T) {
 	anyTimes(9, 800, func(m *maker) {
-		// What one view makes, and another one makes of that, a single one makes, too.
 		m.p.Inputs, m.types = m.p.Inputs[:1], m.types[:1]
 		mid, end := m.anyType(), m.anyType()
 		f, g := m.anyExp(m.types, mid, 2), m.anyExp([]api.Type{mid}, end, 2)
