@@ -118,7 +118,7 @@ func (w *writer) term(t api.Term) {
 
 // zset writes a collection. It is looked at in pieces: one of too many rows is not refused for that, but for its text, which is too long.
 func (w *writer) zset(z api.Zset) {
-	for from := 0; from == 0 || from < len(z); from += api.RowsMost - 1 {
+	for from := 0; from < len(z); from += api.RowsMost - 1 {
 		needReadable(zset.Check(z[from:min(len(z), from+api.RowsMost)]) == api.OK)
 	}
 	putBraces(w, ", ", z, w.row)

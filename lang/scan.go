@@ -7,13 +7,14 @@ import (
 
 const marks = "()[]{},;:=+#"
 
-// tokens are those of a text, one after the other. Behind them comes a plain one, which is where a text ends, or where there is no token.
+// tokens are those of a text, one after the other. Behind them comes a plain one, which is where the text ends, or where there is no token, again and again.
 func tokens(s string) iter.Seq[token] {
 	return func(yield func(token) bool) {
-		for at, end := past(s, 0, isBlank), 0; ; at = past(s, end, isBlank) {
+		end := 0
+		for {
 			var t token
-			t, end = tokenAt(s, at)
-			if !yield(t) || end == at {
+			t, end = tokenAt(s, past(s, end, isBlank))
+			if !yield(t) {
 				return
 			}
 		}
@@ -82,7 +83,7 @@ func quotedAt(s string, at int) (string, int) {
 func nameOf(s string) (called name, digits string) {
 	at := past(s, 0, isLetter)
 	end := endOfNumber(s, at)
-	if end == 0 || end < len(s) {
+	if end < len(s) {
 		return name{letters: s}, ""
 	}
 	return name{s[:at], true}, s[at:]

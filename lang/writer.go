@@ -91,7 +91,7 @@ func (w *writer) once(l []api.Exp, write func()) {
 		return
 	}
 	at := parts{&l[0], len(l)}
-	if w.isLong() && w.right[at] {
+	if w.right[at] {
 		return
 	}
 	write()
