@@ -39,9 +39,10 @@ func sample() api.Prog {
 	}
 }
 
-// TestSample: P7.1 and P7.2: the program of the chapter.
+// TestSample: P7.1 and P7.2: the program of the chapter, and other examples of it.
 func TestSample(t *testing.T) {
 	isProg(t, sample(), sampleText)
+	isExp(t, tagged(1, text("x"), integer, letters), `tag1[int + text]("x")`)
 	isRead(t, lang.Read, "r0:int r1=neg r0 out r1", api.Prog{Inputs: []api.Type{integer}, Views: []api.View{view(api.ViewNeg, 0, []int{0})}, Outs: []int{1}})
 }
 
