@@ -2,8 +2,7 @@ package calc
 
 import (
 	"deltaworks/api"
-	"deltaworks/lists"
-	"deltaworks/types"
+	"deltaworks/fresh"
 )
 
 // named is what a node names by its number: of ExpVar the variable N.
@@ -32,7 +31,7 @@ func put(e api.Exp, l []api.Exp, vars int) api.Exp {
 		if e.Op == api.ExpVar {
 			return of(e.N, bound)
 		}
-		made := bare(e)
+		made := fresh.Node(e)
 		for i, part := range made.L {
 			made.L[i] = replaced(part, bound+operations()[e.Op].binds(i), of)
 		}
@@ -52,18 +51,3 @@ func put(e api.Exp, l []api.Exp, vars int) api.Exp {
 }
 
 func variableOf(n int) api.Exp { return api.Exp{Op: api.ExpVar, N: n} }
-
-// bare returns a copy of a node, without what its operation does not name; its parts are still those of the node.
-func bare(e api.Exp) api.Exp {
-	made := api.Exp{Op: e.Op, L: lists.Joined(e.L)}
-	switch e.Op {
-	case api.ExpText:
-		made.S = e.S
-	case api.ExpTag:
-		made.T = lists.Changed(e.T, types.New)
-		fallthrough
-	case api.ExpInt, api.ExpGet, api.ExpBin, api.ExpCall:
-		made.N = e.N
-	}
-	return made
-}
